@@ -1,4 +1,4 @@
-// Package pack: how numbers and texts stand as bytes: see DOC.md, P4.
+// Package pack: how numbers, texts and flags stand as bytes: see DOC.md, P4 and P8.
 package pack
 
 // The bytes of a number.
@@ -19,10 +19,18 @@ func AppendBlock(b []byte, s string) []byte {
 	return append(AppendNumber(b, len(s)), s...)
 }
 
-// Reader takes bytes apart, from their beginning. From the first part on that is not all there, it has nothing more to give: so it is enough to ask Done behind the last part.
+// AppendFlag puts a byte behind b that tells yes (1) or no (0).
+func AppendFlag(b []byte, yes bool) []byte {
+	if yes {
+		return append(b, 1)
+	}
+	return append(b, 0)
+}
+
+// Reader takes bytes apart, from their beginning. From the first part on that is not all there, or is none of its kind, it has nothing more to give: so it is enough to ask Done behind the last part.
 type Reader struct {
 	rest  string
-	short bool
+	wrong bool
 }
 
 // NewReader makes one that stands at the beginning of s.
@@ -31,7 +39,7 @@ func NewReader(s string) *Reader { return &Reader{rest: s} }
 // Byte takes one byte.
 func (r *Reader) Byte() int {
 	s := r.take(1)
-	if r.short {
+	if r.wrong {
 		return 0
 	}
 	return int(s[0])
@@ -40,7 +48,7 @@ func (r *Reader) Byte() int {
 // Number takes a number.
 func (r *Reader) Number() int {
 	s := r.take(wide)
-	if r.short {
+	if r.wrong {
 		return 0
 	}
 	return int(s[0])<<16 | int(s[1])<<8 | int(s[2])
@@ -52,18 +60,29 @@ func (r *Reader) Text() string { return r.take(r.Byte()) }
 // Block takes what AppendBlock put there; it is a piece of what the Reader was made of.
 func (r *Reader) Block() string { return r.take(r.Number()) }
 
+// Flag takes what AppendFlag put there: no other byte than 0 and 1 is one.
+func (r *Reader) Flag() bool {
+	n := r.Byte()
+	if n > 1 {
+		r.stop()
+	}
+	return n == 1
+}
+
 // Left is how many bytes have not been taken.
 func (r *Reader) Left() int { return len(r.rest) }
 
 // Done: was every part there, and is nothing left?
-func (r *Reader) Done() bool { return !r.short && r.rest == "" }
+func (r *Reader) Done() bool { return !r.wrong && r.rest == "" }
 
 func (r *Reader) take(n int) string {
 	if len(r.rest) < n {
-		r.rest, r.short = "", true
+		r.stop()
 		return ""
 	}
 	s := r.rest[:n]
 	r.rest = r.rest[n:]
 	return s
 }
+
+func (r *Reader) stop() { r.rest, r.wrong = "", true }

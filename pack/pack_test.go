@@ -19,6 +19,8 @@ func TestAppend(t *testing.T) {
 		{"no text", pack.AppendText([]byte("x"), ""), "x\x00"},
 		{"text", pack.AppendText([]byte("x"), "ab"), "x\x02ab"},
 		{"no block", pack.AppendBlock(nil, ""), "\x00\x00\x00"},
+		{"yes", pack.AppendFlag([]byte("x"), true), "x\x01"},
+		{"no", pack.AppendFlag([]byte("x"), false), "x\x00"},
 		{"block", pack.AppendBlock([]byte("x"), strings.Repeat("y", 258)), "x\x00\x01\x02" + strings.Repeat("y", 258)},
 	} {
 		if string(c.b) != c.want {
@@ -61,6 +63,7 @@ func TestReaderThatIsShort(t *testing.T) {
 		{"Number", "\x01\x02", func(r *pack.Reader) bool { return r.Number() == 0 }},
 		{"Text without length", "", func(r *pack.Reader) bool { return r.Text() == "" }},
 		{"Text", "\x03ab", func(r *pack.Reader) bool { return r.Text() == "" }},
+		{"Flag", "", func(r *pack.Reader) bool { return !r.Flag() }},
 		{"Block without length", "\x00\x00", func(r *pack.Reader) bool { return r.Block() == "" }},
 		{"Block", "\x00\x00\x03ab", func(r *pack.Reader) bool { return r.Block() == "" }},
 	} {
@@ -68,8 +71,21 @@ func TestReaderThatIsShort(t *testing.T) {
 		if !c.take(in) || in.Done() || in.Left() != 0 {
 			t.Errorf("%s of %q: Done %v, Left %d", c.name, c.s, in.Done(), in.Left())
 		}
-		if in.Byte() != 0 || in.Number() != 0 || in.Text() != "" || in.Block() != "" || in.Done() {
+		if in.Byte() != 0 || in.Number() != 0 || in.Text() != "" || in.Flag() || in.Block() != "" || in.Done() {
 			t.Errorf("%s of %q: there is more behind the part that is not all there", c.name, c.s)
+		}
+	}
+}
+
+func TestFlags(t *testing.T) {
+	in := pack.NewReader("\x01\x00\x01")
+	if !in.Flag() || in.Flag() || !in.Flag() || !in.Done() {
+		t.Errorf("the flags 1, 0, 1 come as others")
+	}
+	for n := 2; n < 256; n++ {
+		in := pack.NewReader(string([]byte{byte(n), 1, 1}))
+		if in.Flag() || in.Done() || in.Left() != 0 || in.Flag() || in.Byte() != 0 {
+			t.Errorf("the byte %d is taken for a flag", n)
 		}
 	}
 }
