@@ -4,6 +4,7 @@ import (
 	"strings"
 
 	"conclave/api"
+	"conclave/own"
 )
 
 // stateOf is what records tell, of which the first one is a Base.
@@ -30,14 +31,8 @@ func take(s *api.State, records []api.Record) {
 func takeItem(s *api.State, r api.Record) {
 	place := r.Index - s.Base - 1
 	if place >= 0 && place <= len(s.Log) {
-		s.Log = append(s.Log[:place], api.Entry{Term: r.Term, Command: own(r.Command)})
+		s.Log = append(s.Log[:place], api.Entry{Term: r.Term, Command: own.Command(r.Command)})
 	}
-}
-
-// own is a copy: what was handed in may be pieces of longer texts, which would be kept with them.
-func own(c api.Command) api.Command {
-	c.Key, c.Value, c.Old = strings.Clone(c.Key), strings.Clone(c.Value), strings.Clone(c.Old)
-	return c
 }
 
 // recordsOf is what tells a state.
